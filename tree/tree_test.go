@@ -9,60 +9,8 @@ import (
 	"testing"
 
 	"hoarding/api"
+	"hoarding/sketch"
 )
-
-// read is the tree that is written so: each node's Up and Kids, - for -1, -- for -2, as in "-[1 2]; 0[]; 0[]".
-func read(s string) api.Tree {
-	var t api.Tree
-	for _, one := range strings.Split(s, "; ") {
-		up, kids, _ := strings.Cut(strings.TrimSuffix(one, "]"), "[")
-		n := api.Node{Kind: api.Elem, Name: "e" + number(len(t.Nodes)), Up: digit(up)}
-		for _, kid := range strings.Fields(kids) {
-			n.Kids = append(n.Kids, digit(kid))
-		}
-		t.Nodes = append(t.Nodes, n)
-	}
-	return t
-}
-
-// written is t as read reads it.
-func written(t api.Tree) string {
-	var nodes []string
-	for _, n := range t.Nodes {
-		var kids []string
-		for _, kid := range n.Kids {
-			kids = append(kids, number(kid))
-		}
-		nodes = append(nodes, number(n.Up)+"["+strings.Join(kids, " ")+"]")
-	}
-	return strings.Join(nodes, "; ")
-}
-
-// digit is the number that is written so.
-func digit(s string) int {
-	if strings.HasPrefix(s, "-") {
-		return -len(s)
-	}
-	return int(s[0] - '0')
-}
-
-// number is n as it is written; of one digit.
-func number(n int) string {
-	if n < 0 {
-		return strings.Repeat("-", -n)
-	}
-	return string(rune('0' + n))
-}
-
-// own is t in memory of its own.
-func own(t api.Tree) api.Tree {
-	nodes := slices.Clone(t.Nodes)
-	for i := range nodes {
-		nodes[i].Kids = slices.Clone(nodes[i].Kids)
-		nodes[i].Attrs = slices.Clone(nodes[i].Attrs)
-	}
-	return api.Tree{Nodes: nodes}
-}
 
 // The calls by the chapter's words; those that change a tree tell a new one.
 
@@ -88,7 +36,7 @@ func modelHolds(t api.Tree, up, kid int) bool {
 }
 
 func modelCut(t api.Tree, kid int) api.Tree {
-	t = own(t)
+	t = sketch.Copy(t)
 	if at := modelPlace(t, kid); at >= 0 {
 		var kids []int
 		for i, one := range t.Nodes[t.Nodes[kid].Up].Kids {
@@ -106,7 +54,7 @@ func modelCut(t api.Tree, kid int) api.Tree {
 
 func modelPut(t api.Tree, up, at, kid int) api.Tree {
 	if !modelIs(t, up) || !modelIs(t, kid) || kid == 0 || modelHolds(t, kid, up) {
-		return own(t)
+		return sketch.Copy(t)
 	}
 	t = modelCut(t, kid)
 	var kids []int
@@ -124,7 +72,7 @@ func modelPut(t api.Tree, up, at, kid int) api.Tree {
 }
 
 func modelMove(t api.Tree, from, to int) api.Tree {
-	t = own(t)
+	t = sketch.Copy(t)
 	if !modelIs(t, from) || !modelIs(t, to) || modelHolds(t, from, to) {
 		return t
 	}
@@ -138,36 +86,17 @@ func modelMove(t api.Tree, from, to int) api.Tree {
 	return t
 }
 
-// plain is t with nil for lists that are empty.
-func plain(t api.Tree) api.Tree {
-	t = own(t)
-	for i := range t.Nodes {
-		if len(t.Nodes[i].Kids) == 0 {
-			t.Nodes[i].Kids = nil
-		}
-	}
-	return t
-}
-
 // lookAt holds t behind do against what is wanted; t's Kids lie in one memory, one list behind the other, which stays as it is.
 func lookAt(t *testing.T, what string, x, want api.Tree, do func(x *api.Tree)) {
 	t.Helper()
-	var memory []int
-	for _, n := range x.Nodes {
-		memory = append(memory, n.Kids...)
-	}
-	memory = append(memory, 77, 78)
-	was, got, from := slices.Clone(memory), own(x), 0
-	for i, n := range x.Nodes {
-		got.Nodes[i].Kids = memory[from : from+len(n.Kids)]
-		from += len(n.Kids)
-	}
+	got, memory := sketch.Crowd(x)
+	was := slices.Clone(memory)
 	do(&got)
-	if !reflect.DeepEqual(plain(got), plain(want)) {
-		t.Fatalf("%s: %s became %s, not %s", what, written(x), written(got), written(want))
+	if !sketch.Alike(got, want) {
+		t.Fatalf("%s: %s became %s, not %s", what, sketch.Write(x), sketch.Write(got), sketch.Write(want))
 	}
 	if !slices.Equal(memory, was) {
-		t.Fatalf("%s of %s: memory that held the lists %v holds %v", what, written(x), was, memory)
+		t.Fatalf("%s of %s: memory that held the lists %v holds %v", what, sketch.Write(x), was, memory)
 	}
 }
 
@@ -176,16 +105,16 @@ func look(t *testing.T, x api.Tree, numbers []int) {
 	t.Helper()
 	for _, kid := range numbers {
 		if got, want := Place(x, kid), modelPlace(x, kid); got != want {
-			t.Fatalf("Place(%s, %d) = %d, not %d", written(x), kid, got, want)
+			t.Fatalf("Place(%s, %d) = %d, not %d", sketch.Write(x), kid, got, want)
 		}
-		lookAt(t, "Cut of "+number(kid), x, modelCut(x, kid), func(x *api.Tree) { Cut(x, kid) })
+		lookAt(t, "Cut of "+sketch.Number(kid), x, modelCut(x, kid), func(x *api.Tree) { Cut(x, kid) })
 		for _, up := range numbers {
 			if got, want := Holds(x, up, kid), modelHolds(x, up, kid); got != want {
-				t.Fatalf("Holds(%s, %d, %d) = %v, not %v", written(x), up, kid, got, want)
+				t.Fatalf("Holds(%s, %d, %d) = %v, not %v", sketch.Write(x), up, kid, got, want)
 			}
-			lookAt(t, "Move from "+number(up)+" to "+number(kid), x, modelMove(x, up, kid), func(x *api.Tree) { Move(x, up, kid) })
+			lookAt(t, "Move from "+sketch.Number(up)+" to "+sketch.Number(kid), x, modelMove(x, up, kid), func(x *api.Tree) { Move(x, up, kid) })
 			for at := -1; at < 4; at++ {
-				lookAt(t, "Put of "+number(kid)+" into "+number(up)+" at "+number(at), x, modelPut(x, up, at, kid), func(x *api.Tree) { Put(x, up, at, kid) })
+				lookAt(t, "Put of "+sketch.Number(kid)+" into "+sketch.Number(up)+" at "+sketch.Number(at), x, modelPut(x, up, at, kid), func(x *api.Tree) { Put(x, up, at, kid) })
 			}
 		}
 	}
@@ -199,7 +128,7 @@ func TestNew(t *testing.T) {
 	}
 	Add(&x, api.Node{Name: "a"})
 	x.Nodes[0].Name = "b"
-	if y := New(); written(y) != "-[]" || y.Nodes[0].Name != "" {
+	if y := New(); sketch.Write(y) != "-[]" || y.Nodes[0].Name != "" {
 		t.Errorf("a new tree is %+v, where another one was changed", y)
 	}
 }
@@ -228,11 +157,11 @@ func TestAdd(t *testing.T) {
 			t.Errorf("%+v was added as %+v", n, got)
 		}
 	}
-	if got := written(x); got != "-[]"+strings.Repeat("; -[]", 8) {
+	if got := sketch.Write(x); got != "-[]"+strings.Repeat("; -[]", 8) {
 		t.Errorf("nothing is put anywhere yet: %s", got)
 	}
 	var none api.Tree
-	if i := Add(&none, api.Node{Kind: api.Elem, Name: "a", Up: 4, Kids: []int{1}}); i != 0 || written(none) != "-[]" || none.Nodes[0].Name != "a" {
+	if i := Add(&none, api.Node{Kind: api.Elem, Name: "a", Up: 4, Kids: []int{1}}); i != 0 || sketch.Write(none) != "-[]" || none.Nodes[0].Name != "a" {
 		t.Errorf("the first node of a tree without any has the number %d: %+v", i, none)
 	}
 }
@@ -242,7 +171,7 @@ const odd = "-[1 2 1]; 0[]; 0[3]; 2[9 - 1]; 9[]; 6[6]; 5[5]; -[]; 2[]"
 
 // P12.2: Place.
 func TestPlace(t *testing.T) {
-	x := read(odd)
+	x := sketch.Read(odd)
 	for kid, want := range map[int]int{-2: -1, -1: -1, 0: -1, 1: 0, 2: 1, 3: 0, 4: -1, 5: 0, 6: 0, 7: -1, 8: -1, 9: -1, math.MaxInt: -1, math.MinInt: -1} {
 		if got := Place(x, kid); got != want {
 			t.Errorf("Place of %d is %d, not %d", kid, got, want)
@@ -254,7 +183,7 @@ func TestPlace(t *testing.T) {
 	}{
 		{"-[1 2 3]; 0[]; 0[]; 0[]", 3, 2}, {"-[1 2 3]; 0[]; 0[]; 0[]", 2, 1}, {"-[2 2 1 2]; 0[]; 0[]", 2, 0}, {"-[2 2 1 2]; 0[]; 0[]", 1, 2}, {"0[1 0]; 0[]", 0, 1}, {"1[1]; 0[0]", 0, 0}, {"1[1]; -[0]", 1, -1}, {"-[1]; 1[0 1]", 1, 1}, {"-[1]; 2[]", 1, -1}, {"-[1]; -[]", 1, -1}, {"-[1]; --[]", 1, -1}, {"-[1]; 1[]", 1, -1},
 	} {
-		if got := Place(read(c.s), c.kid); got != c.want {
+		if got := Place(sketch.Read(c.s), c.kid); got != c.want {
 			t.Errorf("Place of %d in %s is %d, not %d", c.kid, c.s, got, c.want)
 		}
 	}
@@ -265,7 +194,7 @@ func TestPlace(t *testing.T) {
 
 // P12.2: Holds.
 func TestHolds(t *testing.T) {
-	x := read(odd)
+	x := sketch.Read(odd)
 	for up, kids := range map[int][]int{-1: nil, 0: {0, 1, 2, 3, 8}, 1: {1}, 2: {2, 3, 8}, 3: {3}, 4: {4}, 5: {5, 6}, 6: {5, 6}, 7: {7}, 8: {8}, 9: nil, math.MaxInt: nil, math.MinInt: nil} {
 		for kid := -2; kid < 12; kid++ {
 			if got, want := Holds(x, up, kid), slices.Contains(kids, kid); got != want {
@@ -273,7 +202,7 @@ func TestHolds(t *testing.T) {
 			}
 		}
 	}
-	chain := read("-[1]; 0[2]; 1[3]; 2[4]; 3[]")
+	chain := sketch.Read("-[1]; 0[2]; 1[3]; 2[4]; 3[]")
 	for up := range 5 {
 		for kid := range 5 {
 			if got := Holds(chain, up, kid); got != (up <= kid) {
@@ -288,7 +217,7 @@ func TestHolds(t *testing.T) {
 	}{
 		{"0[]", 0, 0, true}, {"1[]; 2[]; 0[]", 2, 0, true}, {"1[]; 2[]; 0[]", 1, 0, true}, {"1[]; 2[]; 3[]; 0[]", 0, 1, true}, {"1[]; 2[]; 2[]", 0, 1, false}, {"1[]; 2[]; 1[]; -[]", 3, 0, false}, {"1[]; 2[]; 1[]", 2, 0, true}, {"1[]; 9[]", 1, 0, true}, {"-[]; 0[]", 0, 1, true}, {"-[1]; -[]", 0, 1, false}, {"1[]; -[]", 0, 1, false},
 	} {
-		if got := Holds(read(c.s), c.up, c.kid); got != c.want {
+		if got := Holds(sketch.Read(c.s), c.up, c.kid); got != c.want {
 			t.Errorf("in %s %d holds %d: %v", c.s, c.up, c.kid, got)
 		}
 	}
@@ -309,7 +238,7 @@ func TestCut(t *testing.T) {
 		{"-[]; -[2]; 1[]", 1, "-[]; -[2]; 1[]"}, {"-[1 2 1]; 0[]; 0[]", 1, "-[2 1]; -[]; 0[]"}, {"-[2 1 1]; 0[]; 0[]", 1, "-[2 1]; -[]; 0[]"}, {"-[1]; 9[]", 1, "-[1]; -[]"}, {"-[1]; --[]", 1, "-[1]; -[]"}, {"-[1]; 2[]; 0[]", 1, "-[1]; -[]; 0[]"}, {"-[1]; 2[]; 0[1]", 1, "-[1]; -[]; 0[]"}, {"-[]; 1[1]", 1, "-[]; -[]"},
 		{"-[1]; 0[]", 2, "-[1]; 0[]"}, {"-[1]; 0[]", -1, "-[1]; 0[]"}, {"-[1 2]; 0[]", 2, "-[1 2]; 0[]"}, {"-[1 -]; 0[]", -1, "-[1 -]; 0[]"},
 	} {
-		lookAt(t, "Cut of "+number(c.kid), read(c.s), read(c.want), func(x *api.Tree) { Cut(x, c.kid) })
+		lookAt(t, "Cut of "+sketch.Number(c.kid), sketch.Read(c.s), sketch.Read(c.want), func(x *api.Tree) { Cut(x, c.kid) })
 	}
 }
 
@@ -329,7 +258,7 @@ func TestPut(t *testing.T) {
 		{three, 5, 0, 1, three}, {three, -1, 0, 1, three}, {three, 0, 0, 5, three}, {three, 0, 0, -1, three}, {three, 5, 0, 5, three}, {three, -1, 0, -1, three},
 		{"-[1 2 1]; 0[]; 0[]", 0, 9, 1, "-[2 1 1]; 0[]; 0[]"}, {"-[1 2 1]; 0[]; 0[]", 2, 0, 1, "-[2 1]; 2[]; 0[1]"}, {"-[1]; 9[]", 0, 0, 1, "-[1 1]; 0[]"}, {"-[9 -]; -[]", 0, 1, 1, "-[9 1 -]; 0[]"},
 	} {
-		lookAt(t, "Put of "+number(c.kid)+" into "+number(c.up), read(c.s), read(c.want), func(x *api.Tree) { Put(x, c.up, c.at, c.kid) })
+		lookAt(t, "Put of "+sketch.Number(c.kid)+" into "+sketch.Number(c.up), sketch.Read(c.s), sketch.Read(c.want), func(x *api.Tree) { Put(x, c.up, c.at, c.kid) })
 	}
 }
 
@@ -345,13 +274,13 @@ func TestMove(t *testing.T) {
 		{two, 1, 1, two}, {two, 0, 0, two}, {two, 1, 3, two}, {two, 0, 1, two}, {two, 0, 5, two}, {two, 6, 1, two}, {two, 1, 6, two}, {two, -1, 1, two}, {two, 1, -1, two}, {two, 6, 6, two}, {two, -1, -1, two},
 		{"-[1]; 0[9 - 2]; 5[]", 1, 0, "-[1 9 - 2]; 0[]; 0[]"}, {"-[1 2]; 0[9]; 0[]", 1, 2, "-[1 2]; 0[]; 0[9]"}, {"-[1 2]; 0[3 3]; 0[3]; 1[]", 1, 2, "-[1 2]; 0[]; 0[3 3 3]; 2[]"}, {"-[1]; 0[2]; 0[]", 1, 0, "-[1 2]; 0[]; 0[]"}, {"-[1]; 0[0 1]", 1, 0, "0[1 0 1]; 0[]"}, {"-[1 2]; 0[2 0]; 0[]", 1, 2, "2[1 2]; 0[]; 2[2 0]"}, {"-[0]; -[]", 0, 1, "1[]; -[0]"}, {"-[]; 2[3]; 1[]; -[]", 1, 2, "-[]; 2[3]; 1[]; -[]"}, {"-[]; 2[3]; 2[4]; -[]; -[]", 1, 2, "-[]; 2[]; 2[4 3]; 2[]; -[]"},
 	} {
-		lookAt(t, "Move from "+number(c.from)+" to "+number(c.to), read(c.s), read(c.want), func(x *api.Tree) { Move(x, c.from, c.to) })
+		lookAt(t, "Move from "+sketch.Number(c.from)+" to "+sketch.Number(c.to), sketch.Read(c.s), sketch.Read(c.want), func(x *api.Tree) { Move(x, c.from, c.to) })
 	}
 }
 
 // P12.1 to P12.3: all trees of two nodes, whatever their Ups and Kids are, and many of up to seven, held against the models.
 func TestModel(t *testing.T) {
-	look(t, read(odd), []int{-2, -1, 0, 1, 2, 3, 4, 5, 6, 7, 8, 9})
+	look(t, sketch.Read(odd), []int{-2, -1, 0, 1, 2, 3, 4, 5, 6, 7, 8, 9})
 	look(t, api.Tree{}, []int{-1, 0, 1})
 	var lists [][]int
 	for i := -1; i < 3; i++ {
@@ -444,15 +373,15 @@ func TestKeepsApart(t *testing.T) {
 	if x.Nodes[1].Attrs[0].Value != "1" || x.Nodes[2].Attrs[0].Name != "a" || attrs[0].Name != "a" || n.Up != 4 || kids[0] != 3 {
 		t.Errorf("attributes are shared: %+v, %+v", x, n)
 	}
-	nodes := read("-[1]; 0[]; 7[6]; 8[]").Nodes
+	nodes := sketch.Read("-[1]; 0[]; 7[6]; 8[]").Nodes
 	y := api.Tree{Nodes: nodes[:2]}
 	if Place(y, 2) != -1 || Holds(y, 2, 2) {
 		t.Error("what lies behind the nodes is seen")
 	}
 	Put(&y, 0, 0, 2)
 	Move(&y, 0, 2)
-	if i := Add(&y, api.Node{}); i != 2 || written(api.Tree{Nodes: nodes}) != "-[1]; 0[]; 7[6]; 8[]" {
-		t.Errorf("what lies behind the nodes was changed: %s", written(api.Tree{Nodes: nodes}))
+	if i := Add(&y, api.Node{}); i != 2 || sketch.Write(api.Tree{Nodes: nodes}) != "-[1]; 0[]; 7[6]; 8[]" {
+		t.Errorf("what lies behind the nodes was changed: %s", sketch.Write(api.Tree{Nodes: nodes}))
 	}
 }
 
@@ -461,9 +390,9 @@ func TestGrowApart(t *testing.T) {
 	x := New()
 	for range 9 {
 		Put(&x, 0, 99, Add(&x, api.Node{Kind: api.Elem}))
-		y, z := own(x), own(x)
+		y, z := sketch.Copy(x), sketch.Copy(x)
 		y.Nodes[0].Kids, z.Nodes[0].Kids = x.Nodes[0].Kids, x.Nodes[0].Kids
-		was := written(x)
+		was := sketch.Write(x)
 		for i, one := range []*api.Tree{&y, &z} {
 			for range i + 1 {
 				Put(one, 0, 99, Add(one, api.Node{Kind: api.Elem}))
@@ -471,8 +400,8 @@ func TestGrowApart(t *testing.T) {
 			Put(one, 0, 0, 1)
 		}
 		n := len(x.Nodes)
-		if written(x) != was || len(y.Nodes[0].Kids) != n || len(z.Nodes[0].Kids) != n+1 || y.Nodes[0].Kids[n-1] != n || z.Nodes[0].Kids[n-1] != n || z.Nodes[0].Kids[n] != n+1 {
-			t.Fatalf("%s and %s come of %s", written(y), written(z), was)
+		if sketch.Write(x) != was || len(y.Nodes[0].Kids) != n || len(z.Nodes[0].Kids) != n+1 || y.Nodes[0].Kids[n-1] != n || z.Nodes[0].Kids[n-1] != n || z.Nodes[0].Kids[n] != n+1 {
+			t.Fatalf("%s and %s come of %s", sketch.Write(y), sketch.Write(z), was)
 		}
 		y.Nodes, z.Nodes = x.Nodes, x.Nodes
 		Add(&y, api.Node{Name: "y"})
