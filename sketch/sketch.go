@@ -1,6 +1,6 @@
 // Package sketch writes trees as short texts, odd trees too; the tests of the layers alone need it.
 //
-// Of each node there stand the Up, and in brackets the Kids: "-[1 2]; 0[]; 0[]" is a root with two kids. -1 is -, -2 is --, and so on, down to -9.
+// Read and Write: of each node there stand the Up, and in brackets the Kids: "-[1 2]; 0[]; 0[]" is a root with two kids. -1 is -, -2 is --, and so on, down to -9. Nodes: of each node there stands what it is.
 package sketch
 
 import (
@@ -42,6 +42,36 @@ func Write(t api.Tree) string {
 		nodes = append(nodes, Number(n.Up)+"["+strings.Join(kids, " ")+"]")
 	}
 	return strings.Join(nodes, "; ")
+}
+
+// Nodes is a tree of the root and these nodes, none in another one: "b; svg:g; math:mi; a x=1 y=2; #b; !b; ?b" is an element of Html, one of Svg, one of Math, one with two attributes, and text, a remark and a doctype, all three of the name b.
+func Nodes(s string) api.Tree {
+	t := api.Tree{Nodes: []api.Node{{Kind: api.Root, Up: -1}}}
+	for _, one := range strings.Split(s, ";") {
+		t.Nodes = append(t.Nodes, node(strings.TrimSpace(one)))
+	}
+	return t
+}
+
+// node is the one that is written so.
+func node(s string) api.Node {
+	name, attrs, _ := strings.Cut(s, " ")
+	n := api.Node{Kind: api.Elem, Name: name, Up: -1}
+	for at, sign := range []string{"#", "!", "?"} {
+		if rest, is := strings.CutPrefix(n.Name, sign); is {
+			n.Kind, n.Name = api.Chars+at, rest
+		}
+	}
+	for at, sign := range []string{"svg:", "math:"} {
+		if rest, is := strings.CutPrefix(n.Name, sign); is {
+			n.Space, n.Name = api.Svg+at, rest
+		}
+	}
+	for _, a := range strings.Fields(attrs) {
+		name, value, _ := strings.Cut(a, "=")
+		n.Attrs = append(n.Attrs, api.Attr{Name: name, Value: value})
+	}
+	return n
 }
 
 // value is the number that is written so.

@@ -21,6 +21,18 @@ func TestRead(t *testing.T) {
 	}
 }
 
+// Each node is what is written.
+func TestNodes(t *testing.T) {
+	one, two := api.Attr{Name: "x", Value: "1"}, api.Attr{Name: "y"}
+	want := api.Tree{Nodes: []api.Node{{Up: -1}, {Kind: api.Elem, Name: "b", Up: -1}, {Kind: api.Elem, Space: api.Svg, Name: "g", Up: -1}, {Kind: api.Elem, Space: api.Math, Name: "mi", Attrs: []api.Attr{one, two}, Up: -1}, {Kind: api.Chars, Name: "b", Up: -1}, {Kind: api.Remark, Name: "b", Up: -1}, {Kind: api.Type, Space: api.Math, Name: "b", Up: -1}, {Kind: api.Elem, Up: -1}}}
+	if x := Nodes("b; svg:g;math:mi x=1  y= ; #b; !b; ?math:b; "); !Alike(x, want) {
+		t.Errorf("read was %+v", x)
+	}
+	if x := Nodes(""); !Alike(x, api.Tree{Nodes: []api.Node{{Up: -1}, {Kind: api.Elem, Up: -1}}}) {
+		t.Errorf("of nothing was read %+v", x)
+	}
+}
+
 // Trees that part in one field alone are not alike, and what is changed does not stay.
 func TestAlike(t *testing.T) {
 	one := api.Tree{Nodes: []api.Node{{Up: -1, Kids: []int{1}}, {Kind: api.Elem, Attrs: []api.Attr{{Name: "a"}}}}}
